@@ -6,6 +6,7 @@ import (
 	"testing"
 
 	"waymark/api"
+	"waymark/probe"
 )
 
 // edges are addresses at which something changes: the ends of the space, single bits, runs of bits, and a few everyday ones.
@@ -32,37 +33,6 @@ func plainNumber(n int) string {
 		return string(rune('0' + n))
 	}
 	return plainNumber(n/10) + string(rune('0'+n%10))
-}
-
-// texts goes through all texts of up to most bytes of an alphabet.
-func texts(alphabet string, most int, visit func(string)) {
-	layer := []string{""}
-	for range most + 1 {
-		var longer []string
-		for _, s := range layer {
-			visit(s)
-			for i := range len(alphabet) {
-				longer = append(longer, s+alphabet[i:i+1])
-			}
-		}
-		layer = longer
-	}
-}
-
-// changed goes through all texts that are one byte's change away from s: one left out, one put in, one made another.
-func changed(s string, visit func(string)) {
-	for i := range len(s) + 1 {
-		for k := range 256 {
-			put := string([]byte{byte(k)})
-			visit(s[:i] + put + s[i:])
-			if i < len(s) {
-				visit(s[:i] + put + s[i+1:])
-			}
-		}
-		if i < len(s) {
-			visit(s[:i] + s[i+1:])
-		}
-	}
 }
 
 // P1.1: an address's text, and back (P1.5).
@@ -139,13 +109,13 @@ func TestNoOtherAddressText(t *testing.T) {
 			read++
 		}
 	}
-	texts("012.", 8, look)
+	probe.Texts("012.", 8, look)
 	// Seven bytes: 3 for each number; eight: one of the four has two digits, and its first is no nought.
 	if want := 3*3*3*3 + 4*2*3*3*3*3; read != want {
 		t.Errorf("read %d texts of %d", read, want)
 	}
 	for _, s := range []string{"0.0.0.0", "10.0.0.1", "255.255.255.255", "25.20.100.9"} {
-		changed(s, look)
+		probe.Changed(s, look)
 	}
 }
 
@@ -227,11 +197,11 @@ func TestNoOtherPrefixText(t *testing.T) {
 			read++
 		}
 	}
-	texts("0123456789/.- +", 3, func(s string) { look("0.0.0.0/" + s) })
+	probe.Texts("0123456789/.- +", 3, func(s string) { look("0.0.0.0/" + s) })
 	if read != 33 {
 		t.Errorf("read %d texts of 33", read)
 	}
 	for _, s := range []string{"0.0.0.0/0", "10.0.0.0/8", "255.255.255.255/32", "25.20.100.0/24"} {
-		changed(s, look)
+		probe.Changed(s, look)
 	}
 }

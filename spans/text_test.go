@@ -6,6 +6,7 @@ import (
 	"testing"
 
 	"waymark/api"
+	"waymark/probe"
 )
 
 // digits is a number's text, reckoned by dividing.
@@ -30,37 +31,6 @@ func plainText(form []api.Span) string {
 		return "-"
 	}
 	return strings.Join(parts, ",")
-}
-
-// texts goes through all texts of up to most bytes of an alphabet.
-func texts(alphabet string, most int, visit func(string)) {
-	layer := []string{""}
-	for range most + 1 {
-		var longer []string
-		for _, s := range layer {
-			visit(s)
-			for i := range len(alphabet) {
-				longer = append(longer, s+alphabet[i:i+1])
-			}
-		}
-		layer = longer
-	}
-}
-
-// changed goes through all texts that are one byte's change away from s: one left out, one put in, one made another.
-func changed(s string, visit func(string)) {
-	for i := range len(s) + 1 {
-		for k := range 256 {
-			put := string([]byte{byte(k)})
-			visit(s[:i] + put + s[i:])
-			if i < len(s) {
-				visit(s[:i] + put + s[i+1:])
-			}
-		}
-		if i < len(s) {
-			visit(s[:i] + s[i+1:])
-		}
-	}
 }
 
 // P2.3: known sets' texts, and back (P2.6).
@@ -161,7 +131,7 @@ func TestNoOtherText(t *testing.T) {
 		}
 	}
 	const most = 8
-	texts("01,-", most, look)
+	probe.Texts("01,-", most, look)
 	list := []uint32{0, 1}
 	for n := uint32(1); n < 1<<most; n++ {
 		var x uint32
@@ -176,6 +146,6 @@ func TestNoOtherText(t *testing.T) {
 		t.Errorf("read %d texts of %d", read, want)
 	}
 	for _, s := range []string{"-", "0", "1-5,7", "0-4294967295", "19,4294967295", "9-11,13-15,100"} {
-		changed(s, look)
+		probe.Changed(s, look)
 	}
 }
