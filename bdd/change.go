@@ -14,6 +14,13 @@ func (a *Arena) Restrict(f, i int, value bool) (int, api.Errno) {
 	if !a.has(i) {
 		return 0, api.ErrArg
 	}
+	// What begins no sooner than with that variable has the answer in its diagram: nothing is to be made.
+	switch n := a.at(int32(f)); {
+	case n.variable > int32(i):
+		return f, api.OK
+	case n.variable == int32(i):
+		return a.tell(n.side(value)), api.OK
+	}
 	w := a.begin(a.room())
 	return w.answer(w.given(int32(f), i, value))
 }

@@ -88,11 +88,7 @@ func (w *work) answer(n int32) (int, api.Errno) {
 			numbers[i] = a.put(node{made.variable, settled(made.low), settled(made.high)})
 		}
 	}
-	n = settled(n)
-	if n >= 2 {
-		a.told[n-2] = true
-	}
-	return int(n), api.OK
+	return a.tell(settled(n)), api.OK
 }
 
 // needed tells which of the made nodes stand in the diagram of one, and how many. A node is made behind those below it: so one pass from the last to the first comes to all.
