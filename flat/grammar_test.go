@@ -101,12 +101,12 @@ func spread(pattern string) [][]string {
 	return rows
 }
 
-// rows are all rows of a block's patterns, made once.
+// rows are those of each pattern, made once.
 var rows = func() map[string][][]string {
 	all := map[string][][]string{}
-	for block, patterns := range grammar {
+	for _, patterns := range grammar {
 		for _, p := range patterns {
-			all[block] = append(all[block], spread(p)...)
+			all[p] = spread(p)
 		}
 	}
 	return all
@@ -262,15 +262,17 @@ func along(row, line []string, seq int) (int, api.Errno) {
 // wrongWord is the first word of a line that may not stand in a block, by all of the block's rows, and why.
 func wrongWord(block string, line []string, seq int) (int, api.Errno) {
 	far, why := -1, api.ErrWord
-	for _, row := range rows[block] {
-		n, e := along(row, line, seq)
-		switch {
-		case e == api.OK:
-			return 0, api.OK
-		case n > far:
-			far, why = n, e
-		case n == far && e != api.ErrWord:
-			why = e
+	for _, pattern := range grammar[block] {
+		for _, row := range rows[pattern] {
+			n, e := along(row, line, seq)
+			switch {
+			case e == api.OK:
+				return 0, api.OK
+			case n > far:
+				far, why = n, e
+			case n == far && e != api.ErrWord:
+				why = e
+			}
 		}
 	}
 	return far, why

@@ -357,7 +357,7 @@ func TestNotWritten(t *testing.T) {
 func TestPrintChanged(t *testing.T) {
 	r := rand.New(rand.NewSource(31))
 	written := 0
-	for range 6000 {
+	for range 3000 {
 		d := anyDevice(r)
 		spoil(r, &d)
 		s, e := flat.Print(d)
@@ -369,7 +369,7 @@ func TestPrintChanged(t *testing.T) {
 			t.Fatalf("Print(%+v): %q %v", d, s, e)
 		}
 	}
-	if written < 1000 || written > 5000 {
+	if written < 500 || written > 2500 {
 		t.Error("written:", written)
 	}
 }

@@ -54,8 +54,7 @@ func wordFor(r *rand.Rand, kind string, line []string) string {
 
 // anyLine is some line of a block, of which most may stand.
 func anyLine(r *rand.Rand, block string) string {
-	patterns := grammar[block]
-	all := spread(patterns[r.Intn(len(patterns))])
+	all := rows[pick(r, grammar[block]...)]
 	row := all[r.Intn(len(all))]
 	var line []string
 	for i := 0; i < len(row); i++ {
@@ -92,8 +91,21 @@ func blockOf(line string) string {
 // anyText is some text of so many lines at most. Lines that are refused are left out of it, but for one in so many.
 func anyText(r *rand.Rand, lines, keep int) string {
 	s, block := "", ""
+	t := newTold()
+	refused := false
+	add := func(line string) bool {
+		e := api.OK
+		if words := strings.Fields(line); !refused && len(words) > 0 {
+			_, e = t.line(line, words)
+		}
+		if e != api.OK && r.Intn(keep) > 0 {
+			return false
+		}
+		s, refused = s+line+"\n", refused || e != api.OK
+		return true
+	}
 	if r.Intn(20) > 0 {
-		s = "hostname " + pick(r, "a", "r1") + "\n"
+		add("hostname " + pick(r, "a", "r1"))
 	}
 	for range r.Intn(lines + 1) {
 		line, now := anyLine(r, ""), block
@@ -105,9 +117,7 @@ func anyText(r *rand.Rand, lines, keep int) string {
 		if r.Intn(30) == 0 {
 			line = pick(r, " ", "  ") + line
 		}
-		_, pos, e := plain(s + line + "\n")
-		if e == api.OK || pos.Line == 0 || r.Intn(keep) == 0 {
-			s += line + "\n"
+		if add(line) {
 			block = now
 		}
 	}

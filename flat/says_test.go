@@ -20,9 +20,11 @@ type told struct {
 	here  map[string]bool
 }
 
+func newTold() told { return told{d: api.Device{Kind: api.Flat}, once: map[string]bool{}} }
+
 // plain reads a text that lex takes.
 func plain(s string) (api.Device, api.Pos, api.Errno) {
-	t := told{d: api.Device{Kind: api.Flat}, once: map[string]bool{}}
+	t := newTold()
 	for i, l := range strings.Split(s, "\n") {
 		words := strings.Fields(l)
 		if len(words) == 0 || words[0][0] == '!' {
@@ -38,7 +40,7 @@ func plain(s string) (api.Device, api.Pos, api.Errno) {
 	return t.d, api.Pos{}, api.OK
 }
 
-// line reads a line: where it is refused.
+// line reads a line, or tells where it is refused; then nothing has changed.
 func (t *told) line(l string, words []string) (int, api.Errno) {
 	indent := strings.Index(l, words[0])
 	if indent > 1 || indent == 1 && t.block == "" {
@@ -55,15 +57,14 @@ func (t *told) line(l string, words []string) (int, api.Errno) {
 	if indent == 1 {
 		once = t.here
 	}
-	if key := single(within, words); key != "" {
-		if once[key] {
-			return indent + 1, api.ErrTwice
-		}
-		once[key] = true
-	}
-	if within == "router bgp" && words[0] == "neighbor" && !once["neighbor "+words[1]+" as"] {
+	key := single(within, words)
+	switch {
+	case key != "" && once[key]:
+		return indent + 1, api.ErrTwice
+	case within == "router bgp" && words[0] == "neighbor" && words[2] != "as" && !once["neighbor "+words[1]+" as"]:
 		return indent + 1, api.ErrRef
 	}
+	once[key] = true
 	if indent == 0 {
 		t.open(words)
 		t.statement(words)
