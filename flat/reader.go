@@ -78,12 +78,7 @@ func spoken[T any](r *reader, what, name string, list *[]T, fresh T) *T {
 func (r *reader) permits() bool { return r.One("permit", "deny") == "permit" }
 
 // vrf takes a VRF off, if one is said.
-func (r *reader) vrf() string {
-	if r.Next("vrf") {
-		return r.Name()
-	}
-	return ""
-}
+func (r *reader) vrf() string { return r.Named("vrf") }
 
 // masked takes a prefix off, as an address and a mask.
 func (r *reader) masked() api.Prefix {
@@ -99,12 +94,4 @@ func (r *reader) behind(a, mask api.Addr) api.Prefix {
 		r.Refuse(api.ErrMask)
 	}
 	return p
-}
-
-// option takes a number off, if it is said by a word ahead.
-func (r *reader) option(word string, least, most, unsaid int) int {
-	if r.Next(word) {
-		return r.Number(least, most)
-	}
-	return unsaid
 }

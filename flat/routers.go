@@ -49,13 +49,11 @@ func (r *reader) id() api.Addr {
 // redist reads what is taken over to the line's end; from which side besides, hangs on the router.
 func (r *reader) redist(other string) api.Redist {
 	x := api.Redist{From: sideOf(r.One("connected", "static", other))}
-	x.Metric = r.option("metric", 0, topNumber, none)
+	x.Metric = r.Option("metric", 0, topNumber, none)
 	if other == "bgp" {
-		x.Type = uint8(r.option("type", 1, 2, anyType))
+		x.Type = uint8(r.Option("type", 1, 2, anyType))
 	}
-	if r.Next("route-map") {
-		x.Policy = r.Name()
-	}
+	x.Policy = r.Named("route-map")
 	r.End()
 	return x
 }

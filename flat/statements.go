@@ -90,8 +90,8 @@ func (r *reader) static() {
 	if !s.Discard {
 		s.Via = r.Hop()
 	}
-	s.Dist = r.option("distance", 1, topDist, anyDist)
-	s.Tag = r.option("tag", 0, topNumber, 0)
+	s.Dist = r.Option("distance", 1, topDist, anyDist)
+	s.Tag = r.Option("tag", 0, topNumber, 0)
 	r.End()
 	r.device.Statics = append(r.device.Statics, s)
 }
@@ -104,7 +104,7 @@ func (r *reader) entry() {
 	if r.Next("ge") {
 		x.Ge, x.Le = r.Number(x.Prefix.Bits, topBits), topBits
 	}
-	x.Le = r.option("le", x.Ge, topBits, x.Le)
+	x.Le = r.Option("le", x.Ge, topBits, x.Le)
 	r.End()
 	l := spoken(r, "prefix-list", name, &r.device.Prefixes, api.PrefixList{Name: name})
 	l.Entries = append(l.Entries, x)

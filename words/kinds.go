@@ -35,6 +35,22 @@ func (r *Row) Number(least, most int) int {
 	return n
 }
 
+// Option takes a number off, which must be one from least to most, if a word ahead says it.
+func (r *Row) Option(word string, least, most, unsaid int) int {
+	if r.Next(word) {
+		return r.Number(least, most)
+	}
+	return unsaid
+}
+
+// Named takes a name off, if a word ahead says it.
+func (r *Row) Named(word string) string {
+	if r.Next(word) {
+		return r.Name()
+	}
+	return ""
+}
+
 // digits tells whether a text has a number's form, however great the number is.
 func digits(s string) bool {
 	return s != "" && strings.Trim(s, "0123456789") == "" && (s[0] != '0' || s == "0")

@@ -29,13 +29,14 @@ func New(list []lex.Word, end api.Pos) Row {
 func (r *Row) Fault() (api.Pos, api.Errno) { return r.fault, r.e }
 
 // Refuse fails at the word that was taken off last.
-func (r *Row) Refuse(e api.Errno) { r.fail(r.taken, e) }
+func (r *Row) Refuse(e api.Errno) { r.Fail(r.taken, e) }
 
 // RefuseAll fails at the first word.
-func (r *Row) RefuseAll(e api.Errno) { r.fail(r.first, e) }
+func (r *Row) RefuseAll(e api.Errno) { r.Fail(r.first, e) }
 
-func (r *Row) fail(pos api.Pos, e api.Errno) {
-	if r.e == api.OK {
+// Fail fails at a place, which may be that of another statement; OK is no fault.
+func (r *Row) Fail(pos api.Pos, e api.Errno) {
+	if r.e == api.OK && e != api.OK {
 		r.fault, r.e = pos, e
 	}
 }
@@ -54,7 +55,7 @@ func (r *Row) End() {
 // Word takes a word off.
 func (r *Row) Word() string {
 	if !r.More() {
-		r.fail(r.end, api.ErrWord)
+		r.Fail(r.end, api.ErrWord)
 		return ""
 	}
 	w := r.list[0]

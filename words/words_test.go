@@ -43,6 +43,9 @@ func TestEachKind(t *testing.T) {
 	got := []any{r.Word(), r.Name(), r.Number(7, 7), r.AS(), r.Addr(), r.Hop(), r.Prefix(), r.Community(), r.One("out", "in"), r.Next("from"), r.Next("to"), r.More(), r.Word(), r.More()}
 	r.End()
 	taken(t, r, got, []any{"ip", "a", 7, uint32(math.MaxUint32), api.Addr(0x0A000001), api.Addr(0x0A000002), api.Prefix{Addr: 0x0A000000, Bits: 8}, uint32(65537), "in", false, true, true, "x", false}, api.Pos{}, api.OK)
+	r = row("le", "9", "x", "vrf", "a")
+	got = []any{r.Option("ge", 8, 32, 5), r.Option("le", 8, 32, 5), r.Named("vrf"), r.Word(), r.Named("vrf"), r.Named("vrf"), r.Option("le", 8, 32, -1)}
+	taken(t, r, got, []any{5, 9, "", "x", "a", "", -1}, api.Pos{}, api.OK)
 	r = row("9", "1", "4294967295")
 	taken(t, r, []any{r.ASes(), r.More()}, []any{[]uint32{9, 1, math.MaxUint32}, false}, api.Pos{}, api.OK)
 	r = row("0:9", "1:0")
@@ -147,6 +150,18 @@ func TestWhere(t *testing.T) {
 	r.Word()
 	r.RefuseAll(api.ErrTwice)
 	taken(t, r, nil, nil, at(0), api.ErrTwice)
+	r = row("a", "b", "c")
+	r.Word()
+	r.Fail(at(9), api.OK)
+	taken(t, r, []any{r.More()}, []any{true}, api.Pos{}, api.OK)
+	r.Fail(at(9), api.ErrNone)
+	r.Fail(at(8), api.ErrMask)
+	taken(t, r, []any{r.More(), r.Word()}, []any{false, ""}, at(9), api.ErrNone)
+	for i, take := range []func(r *words.Row){func(r *words.Row) { r.Option("a", 0, 9, 0) }, func(r *words.Row) { r.Named("a") }, func(r *words.Row) { r.Option("a", 0, 9, 0) }, func(r *words.Row) { r.Named("a") }} {
+		r = row([]string{"a", "0a"}[:1+i/2]...)
+		take(r)
+		taken(t, r, nil, nil, []api.Pos{end, at(1)}[i/2], api.ErrWord)
+	}
 	none := words.New(nil, end)
 	none.End()
 	none.RefuseAll(api.ErrRef)
