@@ -156,26 +156,34 @@ func must(holds bool) api.Errno {
 	return api.ErrWord
 }
 
-// isHost tells whether a word is an address, /, and a number from 1 to 32.
-func isHost(w string) bool {
-	for n := 1; n <= 32; n++ {
-		if a, is := strings.CutSuffix(w, "/"+strconv.Itoa(n)); is {
-			_, e := addr.Parse(a)
-			return e == api.OK
-		}
+// host holds a word against an address, /, and a number from 1 to 32.
+func host(w string) api.Errno {
+	l := strings.Split(w, "/")
+	if _, e := addr.Parse(l[0]); e != api.OK || len(l) != 2 {
+		return api.ErrWord
 	}
-	return false
+	return number(l[1], 1, 32)
 }
 
-// isPorts tells whether a word is a number of a port, or two that rise or are the same.
-func isPorts(w string) bool {
+// ports holds a word against a number of a port, or two that rise or are the same; whatever is wrong with its form comes first.
+func ports(w string) api.Errno {
 	l := strings.Split(w, "-")
+	if len(l) > 2 {
+		return api.ErrWord
+	}
+	all := api.OK
 	for _, x := range l {
-		if number(x, 0, 65535) != api.OK {
-			return false
+		switch number(x, 0, 65535) {
+		case api.ErrWord:
+			return api.ErrWord
+		case api.ErrNumber:
+			all = api.ErrNumber
 		}
 	}
-	return len(l) == 1 || len(l) == 2 && atoi(l[0]) <= atoi(l[1])
+	if all == api.OK && len(l) == 2 && atoi(l[0]) > atoi(l[1]) {
+		all = api.ErrNumber
+	}
+	return all
 }
 
 // fits holds the word at a place of a statement against a row's word.
@@ -195,9 +203,9 @@ func fits(kind string, words []string, at int) api.Errno {
 		}
 		return must(e == api.OK)
 	case "IFADDR":
-		return must(isHost(w))
+		return host(w)
 	case "PORTS":
-		return must(isPorts(w))
+		return ports(w)
 	case "COMM":
 		_, e := lists.Parse(w)
 		return must(e == api.OK)

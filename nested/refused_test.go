@@ -63,7 +63,7 @@ func TestRefusedWords(t *testing.T) {
 		"instances { <1>; }", "instances { red <blue>; }", "interfaces { <0e> { } }", "interfaces { e0 <e1> { } }",
 	)
 	checkRefused(t, api.ErrWord, inIface,
-		"<cost> 1;", "<ospf> area 0;", "<vrf> a;", "<shutdown>;", "instance <1>;", "instance a <b>;", "address <10.0.0.1>;", "address <10.0.0.1/>;", "address </24>;", "address <10.0.0.1/0>;", "address <10.0.0.1/33>;", "address <10.0.0.1/024>;", "address <10.0.0.1/24/24>;", "address <10.0.0.256/24>;", "address <010.0.0.1/24>;", "address <10.0.0.1/x>;", "address <10.0.0.1/-1>;", "address 10.0.0.1/24 <x>;", "address <10.0.0.1/99999999999999999999>;", "address <10.0.0/24>;",
+		"<cost> 1;", "<ospf> area 0;", "<vrf> a;", "<shutdown>;", "instance <1>;", "instance a <b>;", "address <10.0.0.1>;", "address <10.0.0.1/>;", "address </24>;", "address <10.0.0.1/024>;", "address <10.0.0.1/24/24>;", "address <10.0.0.256/24>;", "address <010.0.0.1/24>;", "address <10.0.0.1/x>;", "address <10.0.0.1/-1>;", "address 10.0.0.1/24 <x>;", "address <10.0.0/24>;", "address <10.0.0/33>;", "address <10.0.0.1/00>;", "address <10.0.0.1/33/1>;",
 		"filter <in> f;", "filter <f>;", "filter input <1>;", "filter output f <g>;", "filter input f <input>;", "nat <plain>;", "nat inside <outside>;", "nat <source>;", "area <a>;", "area <0.0.0.0>;", "area <00>;", "area <-1>;", "area 0 <1>;", "metric <+1>;", "metric <x>;", "metric 1 <1>;", "passive <on>;", "disable <1>;", "<passives>;", "<unit> 0 { }",
 	)
 	checkRefused(t, api.ErrWord, "firewall", "<term> t { }", "filter <1> { }", "filter f <g> { }", "<input> f;")
@@ -71,7 +71,7 @@ func TestRefusedWords(t *testing.T) {
 	checkRefused(t, api.ErrWord, inRule, "<protocol> tcp;", "from <tcp> { }", "then <permit>;", "then <reject>;", "then <next>;", "then accept <discard>;", "<accept>;")
 	checkRefused(t, api.ErrWord, inFits,
 		"protocol <any>;", "protocol <TCP>;", "protocol <06>;", "protocol <-1>;", "protocol tcp <udp>;", "protocol 6 <7>;", "source <any>;", "source <10.0.0.0>;", "source <10.0.0.0/33>;", "source <10.0.0.0/08>;", "source 10.0.0.0/8 <x>;", "destination <10.0.0/8>;", "destination 10.0.0.0/8 <10.0.0.0/8>;",
-		"source-port <any>;", "source-port <->;", "source-port <1->;", "source-port <-1>;", "source-port <1-2-3>;", "source-port <2-1>;", "source-port <65536>;", "source-port <0-65536>;", "source-port <01>;", "source-port <1-02>;", "source-port 1 <2>;", "destination-port <http>;", "destination-port <80-79>;", "destination-port <99999999999999999999>;", "destination-port 1-2 <3>;", "<port> 5;", "<from> { }",
+		"source-port <any>;", "source-port <->;", "source-port <1->;", "source-port <-1>;", "source-port <1-2-3>;", "source-port <65536-x>;", "source-port <x-65536>;", "source-port <2-01>;", "source-port <65536->;", "source-port <01>;", "source-port <1-02>;", "source-port 1 <2>;", "destination-port <http>;", "destination-port 1-2 <3>;", "<port> 5;", "<from> { }",
 	)
 	checkRefused(t, api.ErrWord, "nat", "<inside>;", "<f> to 1.1.1.1;", "source <1> to 1.1.1.1;", "source f <1.1.1.1>;", "source f to <1.1.1>;", "source f to <1.1.1.1/32>;", "source f to 1.1.1.1 <2.2.2.2>;", "destination f <from> 1.1.1.1;", "destination <f!> to 1.1.1.1;")
 	checkRefused(t, api.ErrWord, "routes",
@@ -117,6 +117,12 @@ const large = "99999999999999999999999999999999"
 // Numbers past their ends, however large, and addresses that must not be 0.0.0.0.
 func TestRefusedNumbers(t *testing.T) {
 	checkRefused(t, api.ErrNumber, inIface, "area <16777217>;", "area <"+large+">;", "area <9223372036854775808> x;", "metric <0>;", "metric <65536>;", "metric <"+large+">;", "metric <0> { }")
+	checkRefused(t, api.ErrNumber, inIface, "address <10.0.0.1/0>;", "address <10.0.0.1/33>;", "address <0.0.0.0/65535>;", "address <10.0.0.1/"+large+"> x;", "address <10.0.0.1/0> { }")
+	for _, port := range []string{"source-port", "destination-port"} {
+		for _, w := range []string{"2-1", "80-79", "65536", "0-65536", "65536-65537", "65536-0", "65536-65536", large, large + "-0", "0-" + large} {
+			checkRefused(t, api.ErrNumber, inFits, port+" <"+w+">;", port+" <"+w+"> x;")
+		}
+	}
 	checkRefused(t, api.ErrNumber, inFits, "protocol <256>;", "protocol <"+large+">;", "protocol <256> { }")
 	checkRefused(t, api.ErrNumber, "routes", "route 10.0.0.0/8 next-hop <0.0.0.0>;", "route 10.0.0.0/8 next-hop <0.0.0.0> x;", "route 10.0.0.0/8 discard preference <0>;", "route 10.0.0.0/8 discard preference <256>;", "route 10.0.0.0/8 discard tag <16777217>;", "route 10.0.0.0/8 next-hop 1.1.1.1 instance a preference 5 tag <"+large+">;")
 	checkRefused(t, api.ErrNumber, inList, "10.0.0.0/8 upto <7>;", "10.0.0.0/8 upto <33>;", "10.0.0.0/8 upto <0>;", "10.0.0.0/8 from <7>;", "10.0.0.0/8 from <33>;", "10.0.0.0/8 upto 16 from <17>;", "10.0.0.0/8 upto 16 from <7>;", "10.0.0.0/8 upto <"+large+">;", "10.0.0.0/8 from <"+large+"> reject;", "10.0.0.1/32 upto <31>;", "10.0.0.1/32 from <33>;", "10.0.0.0/8 upto 8 from <9>;")

@@ -88,11 +88,11 @@ func (s *statement) block(each func(*statement)) set {
 func (s *statement) host() (api.Addr, int) {
 	ahead, behind, _ := strings.Cut(s.Word(), "/")
 	a, e := addr.Parse(ahead)
-	bits, is := lex.Number(behind, topBits)
-	if e != api.OK || !is || bits == 0 {
+	if e != api.OK {
 		s.Refuse(api.ErrWord)
 	}
-	return a, bits
+	s.Digits(behind)
+	return a, s.Within(behind, 1, topBits)
 }
 
 // ports takes ports off: one, or two with what is between them.
@@ -101,11 +101,9 @@ func (s *statement) ports() api.Span {
 	if !two {
 		high = low
 	}
-	lo, isLow := lex.Number(low, topPort)
-	hi, isHigh := lex.Number(high, topPort)
-	if !isLow || !isHigh || hi < lo {
-		s.Refuse(api.ErrWord)
-	}
+	s.Digits(low, high)
+	lo := s.Within(low, 0, topPort)
+	hi := s.Within(high, lo, topPort)
 	return api.Span{Lo: uint32(lo), Hi: uint32(hi)}
 }
 

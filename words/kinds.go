@@ -23,13 +23,26 @@ func (r *Row) Name() string {
 // Number takes a number off, which must be one from least to most.
 func (r *Row) Number(least, most int) int {
 	w := r.Word()
-	if !digits(w) {
-		r.Refuse(api.ErrWord)
-		return 0
+	r.Digits(w)
+	return r.Within(w, least, most)
+}
+
+// Digits fails, if one of these parts of the word that was taken off last has not a number's form.
+func (r *Row) Digits(parts ...string) {
+	for _, s := range parts {
+		if !digits(s) {
+			r.Refuse(api.ErrWord)
+		}
 	}
-	n, few := lex.Number(w, most)
+}
+
+// Within is the number that is said by a part of the word that was taken off last, which must be one from least to most.
+func (r *Row) Within(part string, least, most int) int {
+	n, few := lex.Number(part, most)
 	if !few || n < least {
 		r.Refuse(api.ErrNumber)
+	}
+	if r.e != api.OK {
 		return 0
 	}
 	return n

@@ -4,6 +4,7 @@ import (
 	"math"
 	"reflect"
 	"slices"
+	"strings"
 	"testing"
 
 	"waymark/api"
@@ -48,8 +49,21 @@ func TestEachKind(t *testing.T) {
 	taken(t, r, got, []any{5, 9, "", "x", "a", "", -1}, api.Pos{}, api.OK)
 	r = row("9", "1", "4294967295")
 	taken(t, r, []any{r.ASes(), r.More()}, []any{[]uint32{9, 1, math.MaxUint32}, false}, api.Pos{}, api.OK)
+	r = row("5-4294967295")
+	r.Word()
+	r.Digits()
+	r.Digits("5", "4294967295")
+	taken(t, r, []any{r.Within("5", 5, 5), r.Within("4294967295", 0, math.MaxUint32)}, []any{5, math.MaxUint32}, api.Pos{}, api.OK)
 	r = row("0:9", "1:0")
 	taken(t, r, []any{r.Communities(), r.More()}, []any{[]uint32{9, 65536}, false}, api.Pos{}, api.OK)
+}
+
+// parts takes two numbers from 5 to 9 off that stand in one word.
+func parts(r *words.Row) {
+	first, second, _ := strings.Cut(r.Word(), "-")
+	r.Digits(first, second)
+	r.Within(first, 5, 9)
+	r.Within(second, 5, 9)
 }
 
 // What is refused, by each kind, at the word.
@@ -87,6 +101,14 @@ func TestRefused(t *testing.T) {
 		{"x", func(r *words.Row) { r.One("a", "b") }, api.ErrWord},
 		{"a", func(r *words.Row) { r.One() }, api.ErrWord},
 		{"x", func(r *words.Row) { r.End() }, api.ErrWord},
+		{"5-06", parts, api.ErrWord},
+		{"5-", parts, api.ErrWord},
+		{"-5", parts, api.ErrWord},
+		{"10-x", parts, api.ErrWord},
+		{"10-5", parts, api.ErrNumber},
+		{"5-10", parts, api.ErrNumber},
+		{"5-4", parts, api.ErrNumber},
+		{"99999999999999999999-5", parts, api.ErrNumber},
 	} {
 		r := row("ahead", x.word, "behind")
 		r.Word()
@@ -116,7 +138,7 @@ func TestMissing(t *testing.T) {
 
 // Once it has failed, nothing is taken off, all answer zero, and the first fault stays.
 func TestFailsForGood(t *testing.T) {
-	zeros := []any{"", "", 0, uint32(0), []uint32(nil), api.Addr(0), api.Addr(0), api.Prefix{}, uint32(0), []uint32(nil), "", false, false}
+	zeros := []any{"", "", 0, uint32(0), []uint32(nil), api.Addr(0), api.Addr(0), api.Prefix{}, uint32(0), []uint32(nil), "", false, false, 0}
 	for _, fail := range []func(r *words.Row){
 		func(r *words.Row) { r.Name() }, func(r *words.Row) { r.Number(0, 9) }, func(r *words.Row) { r.Hop() }, func(r *words.Row) { r.Prefix() }, func(r *words.Row) { r.Community() }, func(r *words.Row) { r.One("x") }, func(r *words.Row) { r.End() },
 		func(r *words.Row) { r.Word(); r.Refuse(api.ErrRef) },
@@ -127,7 +149,8 @@ func TestFailsForGood(t *testing.T) {
 		if pos != at(0) || e == api.OK {
 			t.Error(pos, e)
 		}
-		got := []any{r.Word(), r.Name(), r.Number(0, 9), r.AS(), r.ASes(), r.Addr(), r.Hop(), r.Prefix(), r.Community(), r.Communities(), r.One("a", "1"), r.Next("a"), r.More()}
+		got := []any{r.Word(), r.Name(), r.Number(0, 9), r.AS(), r.ASes(), r.Addr(), r.Hop(), r.Prefix(), r.Community(), r.Communities(), r.One("a", "1"), r.Next("a"), r.More(), r.Within("1", 0, 9)}
+		r.Digits("x")
 		r.Refuse(api.ErrTwice)
 		r.RefuseAll(api.ErrRef)
 		r.End()
