@@ -1,4 +1,4 @@
-// Package probe makes the texts on which the layers' tests try what reads them.
+// Package probe makes the texts and the networks on which the layers' tests try them.
 package probe
 
 // Texts goes through all texts of up to most bytes of an alphabet.
